@@ -34,6 +34,7 @@ func layoutIs(t *testing.T, what string, l impl.Layout, want bool) {
 	if got := impl.ShowLayout(l); string(got) != wantShow(l) {
 		t.Errorf("ShowLayout(%s): %s, not %s", what, got, wantShow(l))
 	}
+	buildOf(t, what, l)
 	if !sameLayout(l, before) {
 		t.Errorf("%s is written into", what)
 	}
