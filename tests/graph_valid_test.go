@@ -41,6 +41,9 @@ func graphIs(t *testing.T, what string, g impl.Graph, want bool) {
 	if least, got := impl.Components(g); got != code || !want && len(least) != 0 {
 		t.Errorf("Components(%s): %v, %d", what, least, got)
 	}
+	if dist, hop, got := impl.Route(g, 0); got != code || !want && len(dist)+len(hop) != 0 {
+		t.Errorf("Route(%s, 0): %v, %v, %d", what, dist, hop, got)
+	}
 	if !sameGraph(g, before) {
 		t.Errorf("%s is written into", what)
 	}

@@ -35,6 +35,7 @@ func layoutIs(t *testing.T, what string, l impl.Layout, want bool) {
 		t.Errorf("ShowLayout(%s): %s, not %s", what, got, wantShow(l))
 	}
 	buildOf(t, what, l)
+	tablesOf(t, what, l)
 	if !sameLayout(l, before) {
 		t.Errorf("%s is written into", what)
 	}
