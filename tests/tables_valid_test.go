@@ -1,6 +1,7 @@
 package tests
 
 import (
+	"bytes"
 	"fmt"
 	"math"
 	"slices"
@@ -10,7 +11,8 @@ import (
 	"loop.example/s02126/impl"
 )
 
-// tablesIs wants ValidTables to answer so, Nearest to refuse tables that are not valid, and neither to write into them.
+// tablesIs wants ValidTables to answer so, Nearest to refuse tables that are not valid, EncodeImage to have no bytes for
+// them, and none to write into them.
 func tablesIs(t *testing.T, what string, x impl.Tables, want bool) {
 	t.Helper()
 	if wantValidTables(x) != want {
@@ -25,6 +27,9 @@ func tablesIs(t *testing.T, what string, x impl.Tables, want bool) {
 		if !want && (nearest != 0 || code != impl.CodeBad) || want && code == impl.CodeBad {
 			t.Errorf("Nearest(%s, %d, 0): %d, %d", what, kind, nearest, code)
 		}
+	}
+	if image := impl.EncodeImage(x); !bytes.Equal(image, wantImage(x)) || want != (len(image) > 0) {
+		t.Errorf("EncodeImage(%s): %s", what, imageText(image))
 	}
 	if !sameTables(x, before) {
 		t.Errorf("%s is written into", what)
@@ -290,13 +295,11 @@ func TestValidTablesOfFields(t *testing.T) {
 }
 
 // allSteps calls for each choice of a Dist and a Hop for each cell.
-func allSteps(cells int, dists, hops []int, visit func(dist, hop []int)) int {
+func allSteps(cells int, dists, hops []int, visit func(dist, hop []int)) {
 	dist, hop := make([]int, cells), make([]int, cells)
-	count := 0
 	var fill func(cell int)
 	fill = func(cell int) {
 		if cell == cells {
-			count++
 			visit(dist, hop)
 			return
 		}
@@ -307,25 +310,31 @@ func allSteps(cells int, dists, hops []int, visit func(dist, hop []int)) int {
 		}
 	}
 	fill(0)
-	return count
+}
+
+// allTables calls for each choice of a Dist and a Hop for each cell, with one target on each cell.
+func allTables(w, h int, dists, hops []int, visit func(x impl.Tables)) {
+	for at := range w * h {
+		x := impl.Tables{W: w, H: h, Targets: []impl.Target{target("a", 0, at)}}
+		allSteps(w*h, dists, hops, func(dist, hop []int) {
+			x.Dist, x.Hop = [][]int{dist}, [][]int{hop}
+			visit(x)
+		})
+	}
 }
 
 func TestValidTablesOfAllSmallGrids(t *testing.T) {
 	valid := 0
 	compare := func(w, h int, dists, hops []int) {
-		for at := range w * h {
-			x := impl.Tables{W: w, H: h, Targets: []impl.Target{target("a", 0, at)}}
-			allSteps(w*h, dists, hops, func(dist, hop []int) {
-				x.Dist, x.Hop = [][]int{dist}, [][]int{hop}
-				got, want := impl.ValidTables(x), wantValidTables(x)
-				if got != want {
-					t.Errorf("ValidTables(%s): %v, not %v", tablesText(x), got, want)
-				}
-				if want {
-					valid++
-				}
-			})
-		}
+		allTables(w, h, dists, hops, func(x impl.Tables) {
+			got, want := impl.ValidTables(x), wantValidTables(x)
+			if got != want {
+				t.Errorf("ValidTables(%s): %v, not %v", tablesText(x), got, want)
+			}
+			if want {
+				valid++
+			}
+		})
 	}
 	compare(1, 1, span(-3, 5), span(-3, 5))
 	compare(2, 1, span(-2, 4), span(-2, 4))
