@@ -36,6 +36,7 @@ func layoutIs(t *testing.T, what string, l impl.Layout, want bool) {
 	}
 	buildOf(t, what, l)
 	tablesOf(t, what, l)
+	rewriteOf(t, what, l)
 	if !sameLayout(l, before) {
 		t.Errorf("%s is written into", what)
 	}
